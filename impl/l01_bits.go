@@ -1,6 +1,9 @@
 package impl
 
-import "math/bits"
+import (
+	"math/bits"
+	"slices"
+)
 
 const MaxBits = 5000
 
@@ -50,6 +53,8 @@ func (c *wordCounts) fill(words []uint64) {
 
 // wordsFor expects n in 0..MaxBits, so that the sum cannot overflow.
 func wordsFor(n int) int { return (n + wordSize - 1) / wordSize }
+
+func equalBits(v, w Bits) bool { return v.N == w.N && slices.Equal(v.Words, w.Words) }
 
 func isBit(bit int) bool { return bit == 0 || bit == 1 }
 
